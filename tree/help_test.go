@@ -22,6 +22,12 @@ func in(p api.Part) api.Part {
 	return p
 }
 
+// flipped is a part that is Quoted, if it was not.
+func flipped(p api.Part) api.Part {
+	p.Quoted = !p.Quoted
+	return p
+}
+
 // word is a word of these parts.
 func word(l ...api.Part) api.Word { return api.Word{Parts: l} }
 
@@ -123,7 +129,28 @@ func places(x any) []reflect.Value {
 }
 
 // alike holds two values against each other; a nil list and an empty one are the same.
-func alike(a, b any) bool { return reflect.DeepEqual(noNil(a), noNil(b)) }
+func alike[T any](a, b T) bool { return alikeValues(reflect.ValueOf(a), reflect.ValueOf(b)) }
+
+func alikeValues(a, b reflect.Value) bool {
+	n, at := 0, reflect.Value.Field
+	switch a.Kind() {
+	case reflect.Struct:
+		n = a.NumField()
+	case reflect.Slice:
+		if a.Len() != b.Len() {
+			return false
+		}
+		n, at = a.Len(), reflect.Value.Index
+	default:
+		return a.Equal(b)
+	}
+	for i := range n {
+		if !alikeValues(at(a, i), at(b, i)) {
+			return false
+		}
+	}
+	return true
+}
 
 // noNil is a copy in which no list is nil.
 func noNil(x any) any {
@@ -138,6 +165,7 @@ func noNil(x any) any {
 }
 
 // short is a value in few enough letters to be read.
-func short(x any) string {
-	return fmt.Sprintf("%.900s", fmt.Sprintf("%+v", x))
-}
+func short(x any) string { return fmt.Sprintf("%.900s", longText(x)) }
+
+// longText is all of a value as a text.
+func longText(x any) string { return fmt.Sprintf("%+v", x) }
