@@ -250,7 +250,7 @@ func spoilt(r *rand.Rand, p api.Prog) api.Prog {
 	case *[]int:
 		*x = pick(r, nil, []int{1}, []int{1, 2}, append((*x)[:len(*x):len(*x)], len(p.Nodes)))
 	case *[]api.Node:
-		*x = pick(r, append((*x)[:len(*x):len(*x)], c), (*x)[:len(*x)-1])
+		*x = pick(r, append((*x)[:len(*x):len(*x)], c), (*x)[:max(0, len(*x)-1)])
 	}
 	return p
 }
