@@ -146,7 +146,7 @@ func (w *writer) row(x expr) []string {
 
 // token is a token that may be had as that.
 func (w *writer) token(as string) []string {
-	first := []string{"a", "b", "echo", "'if'", "\"$x\"", "$x", "''", "\\}", "${x:-a b}", "$((1+1))", "1=x", "'x'=1", "a'b'c", "\u00e9", "-n", "*", "d#e", "ifx", "x'='1", "abcdefghijklm=1"}
+	first := []string{"a", "b", "echo", "'if'", "\"$x\"", "$x", "''", "\\}", "${x:-a b}", "$((1+1))", "$((x=1))", "1=x", "'x'=1", "a'b'c", "\u00e9", "-n", "*", "d#e", "ifx", "x'='1", "abcdefghijklm=1"}
 	assign := []string{"x=1", "y=", "z=''", "x=$y", "if=a=b", "_9=\"a b\"c", "abcdefghijkl=#"}
 	switch as {
 	case "TEnd", "whole":

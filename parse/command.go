@@ -7,9 +7,7 @@ import (
 
 // command takes a command.
 func (x *reader) command(depth int) node {
-	if !x.mayBegin(depth) {
-		return node{}
-	}
+	x.begin(depth)
 	if x.isFun() {
 		return x.fun(depth)
 	}
@@ -23,13 +21,11 @@ func (x *reader) command(depth int) node {
 	return n
 }
 
-// mayBegin tells whether a command may be within so many others; if not, that is an error, whatever stands there.
-func (x *reader) mayBegin(depth int) bool {
+// begin is where a command is to begin; within too many others that is an error, whatever stands there.
+func (x *reader) begin(depth int) {
 	if depth >= api.MaxDepth {
 		x.fail(api.ErrLimit)
-		return false
 	}
-	return true
 }
 
 // compound takes a command but its redirs, if one stands next that is neither a fun nor simple.
@@ -98,9 +94,8 @@ func (x *reader) each(depth int) node {
 	for x.isWord() {
 		n.Words = append(n.Words, x.word())
 	}
-	if !x.sep() {
-		x.fail(api.ErrForm)
-	}
+	// Where none stands no do does, either: it would have been one of the words.
+	x.sep()
 	return node{n, []node{x.body(depth)}}
 }
 
@@ -147,9 +142,7 @@ func (x *reader) fun(depth int) node {
 
 // held takes what a fun stands for: a list in braces or parentheses.
 func (x *reader) held(depth int) node {
-	if !x.mayBegin(depth) {
-		return node{}
-	}
+	x.begin(depth)
 	if !x.is("{") && !x.is("(") {
 		x.fail(api.ErrForm)
 	}

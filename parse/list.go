@@ -41,7 +41,7 @@ func (x *reader) sep() bool {
 // ends tells whether behind a sep a list has no other part.
 func (x *reader) ends() bool {
 	switch text(x.next()) {
-	case ")", ";;", "}", "then", "elif", "else", "fi", "do", "done", "esac":
+	case ")", ";;", "}", "then", "elif", "else", "fi", "do", "done":
 		return true
 	}
 	return x.next().Kind == api.TEnd

@@ -407,7 +407,7 @@ func TestAssigns(t *testing.T) {
 	good(t, a.gives("x", lit("1")).gives("y", lit("2")).goes(">", "b").goes("<", "c"), "x=1 >b y=2 <c a", ">b x=1 y=2 a <c", ">b <c x=1 y=2 a")
 	good(t, cmd("a x=1").goes(">", "b"), "a >b x=1", ">b a x=1", "a x=1 >b")
 	// What is none: no name, a name or its sign in quotes, something ahead of it.
-	for _, s := range []string{"=", "=x", "==", "1=x", "1x=y", "abcdefghijklm=1", "'x'=1", "\"x\"=1", "\\x=1", "x''=1", "x'='1", "x\\=1", "x\"=1\"", "'x=1'", "\"x=1\"", "$x=1", "${x}=1", "''x=1", "x$y=1", "x-y=1", "x+=1", "\u00e9=1", "x\u00e9=1", "$((1))=1", "x.y=", "-x=1", "x[1]=2", "{=1", "!=1", "}=1", "a#=1"} {
+	for _, s := range []string{"=", "=x", "==", "1=x", "1x=y", "abcdefghijklm=1", "'x'=1", "\"x\"=1", "\\x=1", "x''=1", "x'='1", "x\\=1", "x\"=1\"", "'x=1'", "\"x=1\"", "$x=1", "${x}=1", "$((x=1))", "$((x=1))y", "$((x==1))=2", "\"$((x=1))\"", "${x:-y=1}", "${x:=1}", "\"$x\"=1", "''x=1", "x$y=1", "x-y=1", "x+=1", "\u00e9=1", "x\u00e9=1", "$((1))=1", "x.y=", "-x=1", "x[1]=2", "{=1", "!=1", "}=1", "a#=1"} {
 		good(t, cmd(s), s, s+";", "\n"+s)
 		good(t, cmd(s+" y=1"), s+" y=1")
 		good(t, cmd(s+" y=1").gives("x", lit("1")), "x=1 "+s+" y=1")
